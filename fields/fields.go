@@ -46,6 +46,24 @@ func Join(l [][]byte) []byte {
 	return behind(make([]byte, 0, n), l)
 }
 
+// Copy is fields in memory of their own.
+func Copy(l [][]byte) [][]byte {
+	c := make([][]byte, len(l))
+	each(l, func(at int, field []byte) bool {
+		c[at] = copied(field)
+		return true
+	})
+	return c
+}
+
+// LengthBits is how many bits a length has in packets that are acknowledged, of the bits of their numbers.
+func LengthBits(width int) int {
+	if width == 10 {
+		return 11
+	}
+	return 15
+}
+
 // Write is a head, and behind it the bytes of fields that may be.
 func Write(head []byte, l [][]byte, width int) []byte {
 	b := append(make([]byte, 0, len(head)+Size(l, width)), head...)
